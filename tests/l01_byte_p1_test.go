@@ -1,0 +1,174 @@
+package tests
+
+import (
+	"bytes"
+	"math"
+	"reflect"
+	"strings"
+	"sync"
+	"testing"
+
+	"loop.example/g00383/impl"
+)
+
+// byteArguments are bytes of every kind that chapter 1 tells apart.
+func byteArguments() [][]byte {
+	return [][]byte{
+		nil, {}, {0}, {1}, {255}, {0, 1}, {1, 0}, {1, 0, 0}, {4, 0, 0, 0, 0, 0, 0}, {4, 0, 0, 0, 0, 0, 1}, bytes.Repeat([]byte{255}, 8),
+		fill(32), fill(impl.MaxBytes), fill(impl.MaxBytes + 1), fill(1 << 20),
+	}
+}
+
+func textArguments() []string {
+	return []string{
+		"", "0", "00", "00ab", "00AB", "zz", "é", "\xff", "\x00", strings.Repeat("a", 2*impl.MaxBytes-1), strings.Repeat("a", 2*impl.MaxBytes),
+		strings.Repeat("a", 2*impl.MaxBytes+1), strings.Repeat("a", 1<<20),
+	}
+}
+
+func numberArguments() []int64 {
+	return []int64{math.MinInt64, -topShort, -256, -1, 0, 1, 255, 256, 258, topShort - 1, topShort, topShort + 1, math.MaxInt64}
+}
+
+type byteAnswers struct {
+	Hex    []impl.TextResult
+	Read   []impl.BytesResult
+	Same   []bool
+	Ahead  []bool
+	Short  []impl.BytesResult
+	Number []impl.IntResult
+}
+
+// askBytes calls each function of chapter 1 with each argument.
+func askBytes(datas [][]byte, texts []string, numbers []int64) byteAnswers {
+	var all byteAnswers
+	for _, a := range datas {
+		all.Hex = append(all.Hex, impl.HexOf(a))
+		all.Number = append(all.Number, impl.BytesShort(a))
+		for _, b := range datas {
+			all.Same = append(all.Same, impl.SameBytes(a, b))
+			all.Ahead = append(all.Ahead, impl.IsAhead(a, b))
+		}
+	}
+	for _, text := range texts {
+		all.Read = append(all.Read, impl.BytesOfHex(text))
+	}
+	for _, n := range numbers {
+		all.Short = append(all.Short, impl.ShortBytes(n))
+	}
+	return all
+}
+
+func TestP1BytesAnswerAtEveryArgument(t *testing.T) {
+	all := askBytes(byteArguments(), textArguments(), numberArguments())
+	for i, r := range all.Hex {
+		if r.Code != impl.OK && (r.Code != impl.ErrMany || r.Text != "") {
+			t.Errorf("HexOf at %d: code %d and %d signs", i, r.Code, len(r.Text))
+		}
+	}
+	for i, r := range all.Read {
+		if r.Code != impl.OK && (r.Code != impl.ErrMany && r.Code != impl.ErrText || len(r.Bytes) != 0) {
+			t.Errorf("BytesOfHex at %d: code %d and %d bytes", i, r.Code, len(r.Bytes))
+		}
+	}
+	for i, r := range all.Short {
+		if r.Code != impl.OK && (r.Code != impl.ErrRange || len(r.Bytes) != 0) {
+			t.Errorf("ShortBytes at %d: %+v", i, r)
+		}
+	}
+	for i, r := range all.Number {
+		if r.Code != impl.OK && r != (impl.IntResult{Code: impl.ErrText}) {
+			t.Errorf("BytesShort at %d: %+v", i, r)
+		}
+	}
+}
+
+func TestP1BytesHangOnTheArgumentsAlone(t *testing.T) {
+	first := askBytes(byteArguments(), textArguments(), numberArguments())
+	again := askBytes(byteArguments(), textArguments(), numberArguments())
+	if !reflect.DeepEqual(first, again) {
+		t.Error("the same arguments are answered otherwise the second time")
+	}
+	// Memory with more room than it shows is the same argument.
+	var roomy [][]byte
+	for _, data := range byteArguments() {
+		room := append(append([]byte{}, data...), 1, 2, 3, 4, 5, 6, 7, 8)
+		roomy = append(roomy, room[:len(data)])
+	}
+	if !reflect.DeepEqual(first, askBytes(roomy, textArguments(), numberArguments())) {
+		t.Error("an answer hangs on what is behind an argument")
+	}
+}
+
+// Callers with arguments of their own would hear of each other if anything were kept between them.
+func TestP1BytesAnswerSideBySide(t *testing.T) {
+	wrong := make([]int, 8)
+	var all sync.WaitGroup
+	for i := range wrong {
+		all.Go(func() {
+			n := int64(0x01010101010101) * int64(i) % topShort
+			data := bytes.Repeat([]byte{byte(17 * i)}, 40)
+			for range 20000 {
+				if impl.BytesShort(impl.ShortBytes(n).Bytes).Value != n || !impl.SameBytes(impl.BytesOfHex(impl.HexOf(data).Text).Bytes, data) {
+					wrong[i]++
+				}
+			}
+		})
+	}
+	all.Wait()
+	for i, n := range wrong {
+		if n != 0 {
+			t.Errorf("caller %d of several is answered otherwise %d times", i, n)
+		}
+	}
+}
+
+func TestP1BytesChangeNoArgument(t *testing.T) {
+	var rooms, shown, before [][]byte
+	for _, data := range byteArguments() {
+		room := append(append([]byte{}, data...), 99, 98, 97, 96, 95, 94, 93, 92)
+		rooms = append(rooms, room)
+		shown = append(shown, room[:len(data)])
+		before = append(before, bytes.Clone(room))
+	}
+	askBytes(shown, nil, nil)
+	for i := range rooms {
+		if !bytes.Equal(rooms[i], before[i]) {
+			t.Errorf("the argument at %d, or what is behind it, was changed", i)
+		}
+	}
+}
+
+func TestP1BytesAnswersAreNewMemory(t *testing.T) {
+	data := []byte{0, 171, 255}
+	text := impl.HexOf(data)
+	clear(data)
+	wantText(t, "HexOf, its argument changed since", text, impl.OK, "00abff")
+
+	one, two := impl.BytesOfHex("00abff"), impl.BytesOfHex("00abff")
+	for i := range one.Bytes {
+		one.Bytes[i] = 77
+	}
+	wantBytes(t, "BytesOfHex beside a changed answer", two, impl.OK, []byte{0, 171, 255})
+	wantBytes(t, "BytesOfHex behind a changed answer", impl.BytesOfHex("00abff"), impl.OK, []byte{0, 171, 255})
+
+	for _, n := range shortNumbers() {
+		one, two := impl.ShortBytes(n), impl.ShortBytes(n)
+		kept := bytes.Clone(two.Bytes)
+		whole := one.Bytes[:cap(one.Bytes)]
+		for i := range whole {
+			whole[i] ^= 255
+		}
+		wantBytes(t, "ShortBytes beside a changed answer", two, impl.OK, kept)
+		wantBytes(t, "ShortBytes behind a changed answer", impl.ShortBytes(n), impl.OK, kept)
+	}
+}
+
+func TestP1BytesGrownAnswersStayApart(t *testing.T) {
+	one, two := impl.ShortBytes(258), impl.ShortBytes(259)
+	three, four := impl.BytesOfHex("0102"), impl.BytesOfHex("0103")
+	_ = append(one.Bytes, 9, 9, 9)
+	_ = append(three.Bytes, 9, 9, 9)
+	wantBytes(t, "ShortBytes beside a grown answer", two, impl.OK, []byte{1, 3})
+	wantBytes(t, "BytesOfHex beside a grown answer", four, impl.OK, []byte{1, 3})
+}
