@@ -5,7 +5,6 @@ import (
 	"math"
 	"reflect"
 	"strings"
-	"sync"
 	"testing"
 
 	"loop.example/g00383/impl"
@@ -89,54 +88,25 @@ func TestP1BytesHangOnTheArgumentsAlone(t *testing.T) {
 	if !reflect.DeepEqual(first, again) {
 		t.Error("the same arguments are answered otherwise the second time")
 	}
-	// Memory with more room than it shows is the same argument.
-	var roomy [][]byte
-	for _, data := range byteArguments() {
-		room := append(append([]byte{}, data...), 1, 2, 3, 4, 5, 6, 7, 8)
-		roomy = append(roomy, room[:len(data)])
-	}
-	if !reflect.DeepEqual(first, askBytes(roomy, textArguments(), numberArguments())) {
+	if !reflect.DeepEqual(first, askBytes(allWithRoom(byteArguments(), 77), textArguments(), numberArguments())) {
 		t.Error("an answer hangs on what is behind an argument")
 	}
 }
 
-// Callers with arguments of their own would hear of each other if anything were kept between them.
 func TestP1BytesAnswerSideBySide(t *testing.T) {
-	wrong := make([]int, 8)
-	var all sync.WaitGroup
-	for i := range wrong {
-		all.Go(func() {
-			n := int64(0x01010101010101) * int64(i) % topShort
-			data := bytes.Repeat([]byte{byte(17 * i)}, 40)
-			for range 20000 {
-				if impl.BytesShort(impl.ShortBytes(n).Bytes).Value != n || !impl.SameBytes(impl.BytesOfHex(impl.HexOf(data).Text).Bytes, data) {
-					wrong[i]++
-				}
-			}
-		})
-	}
-	all.Wait()
-	for i, n := range wrong {
-		if n != 0 {
-			t.Errorf("caller %d of several is answered otherwise %d times", i, n)
+	wantSideBySide(t, 20000, func(i int) func() bool {
+		n := int64(0x01010101010101) * int64(i) % topShort
+		data := bytes.Repeat([]byte{byte(17 * i)}, 40)
+		return func() bool {
+			return impl.BytesShort(impl.ShortBytes(n).Bytes).Value == n && impl.SameBytes(impl.BytesOfHex(impl.HexOf(data).Text).Bytes, data)
 		}
-	}
+	})
 }
 
 func TestP1BytesChangeNoArgument(t *testing.T) {
-	var rooms, shown, before [][]byte
-	for _, data := range byteArguments() {
-		room := append(append([]byte{}, data...), 99, 98, 97, 96, 95, 94, 93, 92)
-		rooms = append(rooms, room)
-		shown = append(shown, room[:len(data)])
-		before = append(before, bytes.Clone(room))
-	}
-	askBytes(shown, nil, nil)
-	for i := range rooms {
-		if !bytes.Equal(rooms[i], before[i]) {
-			t.Errorf("the argument at %d, or what is behind it, was changed", i)
-		}
-	}
+	wantUnchanged(t, byteArguments(), 99, func(data []byte) {
+		askBytes([][]byte{data, fill(32)}, nil, nil)
+	})
 }
 
 func TestP1BytesAnswersAreNewMemory(t *testing.T) {
@@ -146,19 +116,14 @@ func TestP1BytesAnswersAreNewMemory(t *testing.T) {
 	wantText(t, "HexOf, its argument changed since", text, impl.OK, "00abff")
 
 	one, two := impl.BytesOfHex("00abff"), impl.BytesOfHex("00abff")
-	for i := range one.Bytes {
-		one.Bytes[i] = 77
-	}
+	spoil(one.Bytes, 77)
 	wantBytes(t, "BytesOfHex beside a changed answer", two, impl.OK, []byte{0, 171, 255})
 	wantBytes(t, "BytesOfHex behind a changed answer", impl.BytesOfHex("00abff"), impl.OK, []byte{0, 171, 255})
 
 	for _, n := range shortNumbers() {
 		one, two := impl.ShortBytes(n), impl.ShortBytes(n)
 		kept := bytes.Clone(two.Bytes)
-		whole := one.Bytes[:cap(one.Bytes)]
-		for i := range whole {
-			whole[i] ^= 255
-		}
+		spoil(one.Bytes, 77)
 		wantBytes(t, "ShortBytes beside a changed answer", two, impl.OK, kept)
 		wantBytes(t, "ShortBytes behind a changed answer", impl.ShortBytes(n), impl.OK, kept)
 	}

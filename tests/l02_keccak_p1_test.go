@@ -5,7 +5,6 @@ import (
 	"math"
 	"reflect"
 	"slices"
-	"sync"
 	"testing"
 
 	"loop.example/g00383/impl"
@@ -63,14 +62,6 @@ func askKeccak(datas [][]byte, states [][]int64, turns []int64) keccakAnswers {
 	return all
 }
 
-// wantLength: what is told with OK has one of its lengths, and beside another code there is nothing.
-func wantLength(t *testing.T, call string, at int, code int64, length int, codes []int64, lengths ...int) {
-	t.Helper()
-	if code == impl.OK && !slices.Contains(lengths, length) || code != impl.OK && (!slices.Contains(codes, code) || length != 0) {
-		t.Errorf("%s at %d: code %d and a length of %d", call, at, code, length)
-	}
-}
-
 func TestP1KeccakAnswersAtEveryArgument(t *testing.T) {
 	all := askKeccak(hashArguments(), stateArguments(), turnArguments())
 	for i, r := range all.Turn {
@@ -97,73 +88,27 @@ func TestP1KeccakHangsOnTheArgumentsAlone(t *testing.T) {
 	if !reflect.DeepEqual(first, again) {
 		t.Error("the same arguments are answered otherwise the second time")
 	}
-	// Memory with more room than it shows is the same argument.
-	var datas [][]byte
-	for _, data := range hashArguments() {
-		room := append(bytes.Clone(data), bytes.Repeat([]byte{77}, 300)...)
-		datas = append(datas, room[:len(data)])
-	}
-	var states [][]int64
-	for _, state := range stateArguments() {
-		room := append(slices.Clone(state), slices.Repeat([]int64{7}, 60)...)
-		states = append(states, room[:len(state)])
-	}
-	if !reflect.DeepEqual(first, askKeccak(datas, states, turnArguments())) {
+	if !reflect.DeepEqual(first, askKeccak(allWithRoom(hashArguments(), 77), allWithRoom(stateArguments(), 7), turnArguments())) {
 		t.Error("an answer hangs on what is behind an argument")
 	}
 }
 
-// Callers with arguments of their own would hear of each other if a state were kept between them.
 func TestP1KeccakAnswersSideBySide(t *testing.T) {
-	wrong := make([]int, 8)
-	var all sync.WaitGroup
-	for i := range wrong {
+	wantSideBySide(t, 300, func(i int) func() bool {
 		data := fill(100*i + 35)
 		state := make([]int64, stateWords)
 		state[i] = int64(i)
 		hash, text, mixed, padded := impl.KeccakOf(data).Bytes, impl.HashText(data).Text, impl.MixState(state).List, impl.PadBytes(data).Bytes
-		all.Go(func() {
-			for range 300 {
-				same := bytes.Equal(impl.KeccakOf(data).Bytes, hash) && impl.HashText(data).Text == text
-				if !same || !slices.Equal(impl.MixState(state).List, mixed) || !bytes.Equal(impl.PadBytes(data).Bytes, padded) {
-					wrong[i]++
-				}
-			}
-		})
-	}
-	all.Wait()
-	for i, n := range wrong {
-		if n != 0 {
-			t.Errorf("caller %d of several is answered otherwise %d times", i, n)
+		return func() bool {
+			same := bytes.Equal(impl.KeccakOf(data).Bytes, hash) && impl.HashText(data).Text == text
+			return same && slices.Equal(impl.MixState(state).List, mixed) && bytes.Equal(impl.PadBytes(data).Bytes, padded)
 		}
-	}
+	})
 }
 
 func TestP1KeccakChangesNoArgument(t *testing.T) {
-	for i, data := range hashArguments() {
-		room := append(bytes.Clone(data), bytes.Repeat([]byte{99}, 300)...)
-		before := bytes.Clone(room)
-		askKeccak([][]byte{room[:len(data)]}, nil, nil)
-		if !bytes.Equal(room, before) {
-			t.Errorf("the bytes at %d, or what is behind them, were changed", i)
-		}
-	}
-	for i, state := range stateArguments() {
-		room := append(slices.Clone(state), slices.Repeat([]int64{9}, 60)...)
-		before := slices.Clone(room)
-		askKeccak(nil, [][]int64{room[:len(state)]}, nil)
-		if !slices.Equal(room, before) {
-			t.Errorf("the state at %d, or what is behind it, was changed", i)
-		}
-	}
-}
-
-// spoil overwrites a list, and the room behind it that its holder may grow into.
-func spoil[T any](list []T, with T) {
-	whole := list[:cap(list)]
-	for i := range whole {
-		whole[i] = with
-	}
+	wantUnchanged(t, hashArguments(), 99, func(data []byte) { askKeccak([][]byte{data}, nil, nil) })
+	wantUnchanged(t, stateArguments(), 9, func(state []int64) { askKeccak(nil, [][]int64{state}, nil) })
 }
 
 func TestP1KeccakAnswersShareNoMemory(t *testing.T) {
