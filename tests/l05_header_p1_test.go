@@ -46,6 +46,18 @@ func signersArguments() [][][]byte {
 	}
 }
 
+// roomySigners are the same lists, in memory with more room than they show.
+func roomySigners() [][][]byte {
+	var roomy [][][]byte
+	for _, list := range signersArguments() {
+		if len(list) < 1<<16 {
+			list = allWithRoom(list, 7)
+		}
+		roomy = append(roomy, withRoom(list, addr(77)))
+	}
+	return roomy
+}
+
 type headerAnswers struct {
 	Fault, Signers       []int64
 	Packed, Hash, Sealed []impl.BytesResult
@@ -130,14 +142,7 @@ func TestP1HeadersHangOnTheArgumentsAlone(t *testing.T) {
 	for _, h := range headerArguments() {
 		roomy = append(roomy, roomyHeader(h))
 	}
-	var lists [][][]byte
-	for _, list := range signersArguments() {
-		if len(list) < 1<<16 {
-			list = allWithRoom(list, 7)
-		}
-		lists = append(lists, withRoom(list, addr(77)))
-	}
-	if !reflect.DeepEqual(first, askHeaders(roomy, allWithRoom(packedArguments(), 5), lists)) {
+	if !reflect.DeepEqual(first, askHeaders(roomy, allWithRoom(packedArguments(), 5), roomySigners())) {
 		t.Error("an answer hangs on what is behind an argument")
 	}
 }
