@@ -457,7 +457,7 @@ func TestP9CommitsRightTheFirstCode(t *testing.T) {
 	}
 }
 
-// commitsRightAs is what the chapter says of commits, worked out over lists alone.
+// commitsRightAs is what the chapter says of commits; the faults of signers and headers, which other tests hold, are the program's.
 func commitsRightAs(signers [][]byte, h impl.Header) int64 {
 	if len(signers) == 0 {
 		return impl.ErrNone
