@@ -393,7 +393,13 @@ func TestP10ReplayAllOfCounts(t *testing.T) {
 
 // The setting, the first header, how many there are, its Signers, and then the headers one by one.
 func TestP10ReplayAllTheFirstCode(t *testing.T) {
-	k := chainOf(t, 51, impl.ModeTurns, 41)
+	for _, mode := range modes() {
+		wantReplayedInOrder(t, chainOf(t, 51, mode, 41))
+	}
+}
+
+func wantReplayedInOrder(t *testing.T, k chain) {
+	t.Helper()
 	bare := withChange(k.genesis, func(h *impl.Header) { h.Signers = nil })
 	lists := [][]impl.Header{nil, k.list[:1], k.list[1:3], k.list[:40], k.list, make([]impl.Header, 41)}
 	for _, list := range lists {
@@ -434,7 +440,11 @@ func TestP10ReplayAllOfOneThatMayNotFollow(t *testing.T) {
 		if mode == impl.ModeTurns {
 			rows = append(rows, wrong{impl.ErrForm, func(h *impl.Header) { h.Commits = someCommits(1) }})
 		} else {
-			rows = append(rows, wrong{impl.ErrRule, func(h *impl.Header) { h.Commits = nil }}, wrong{impl.ErrSign, func(h *impl.Header) { h.Commits[0][7] ^= 1 }})
+			rows = append(rows,
+				wrong{impl.ErrRule, func(h *impl.Header) { h.Commits = nil }},
+				wrong{impl.ErrSign, func(h *impl.Header) { h.Commits[0][7] ^= 1 }},
+				wrong{impl.ErrTaken, func(h *impl.Header) { h.Commits = [][]byte{h.Commits[0], h.Commits[0]} }},
+			)
 		}
 		for at := range k.list {
 			for _, row := range rows {
