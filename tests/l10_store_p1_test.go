@@ -193,33 +193,40 @@ func TestP1StoreHangsOnTheArgumentsAlone(t *testing.T) {
 	}
 }
 
-// Empty and nil are the same value, wherever they stand.
-func TestP1StoreOfNilAndEmpty(t *testing.T) {
-	emptied := func(h *impl.Header) {
-		for _, data := range headerData(h) {
-			if len(*data) == 0 {
-				*data = []byte{}
-			}
-		}
-		for _, list := range []*[][]byte{&h.Signers, &h.Commits} {
-			if len(*list) == 0 {
-				*list = [][]byte{}
-			}
+// emptied gives a header what is empty for what is nil.
+func emptied(h *impl.Header) {
+	for _, data := range headerData(h) {
+		if len(*data) == 0 {
+			*data = []byte{}
 		}
 	}
+	for _, list := range []*[][]byte{&h.Signers, &h.Commits} {
+		if len(*list) == 0 {
+			*list = [][]byte{}
+		}
+	}
+}
+
+// emptiedStore is the same store, with what is empty for what is nil.
+func emptiedStore(s impl.Store) impl.Store {
+	return withStore(s, func(s *impl.Store) {
+		s.Entries = append([]impl.Entry{}, s.Entries...)
+		for at := range s.Entries {
+			emptied(&s.Entries[at].Header)
+			s.Entries[at].Hash = append([]byte{}, s.Entries[at].Hash...)
+			s.Entries[at].Total = append([]int64{}, s.Entries[at].Total...)
+		}
+	})
+}
+
+// Empty and nil are the same value, wherever they stand.
+func TestP1StoreOfNilAndEmpty(t *testing.T) {
 	for i, s := range storeArguments(t) {
-		other := withStore(s, func(s *impl.Store) {
-			for at := range s.Entries {
-				emptied(&s.Entries[at].Header)
-				s.Entries[at].Hash = append([]byte{}, s.Entries[at].Hash...)
-				s.Entries[at].Total = append([]int64{}, s.Entries[at].Total...)
-			}
-		})
 		headers := headersFor(s)
 		for at := range headers {
 			headers[at] = withChange(headers[at], emptied)
 		}
-		if !sameStoreAnswers(askOneStore(s), askStore(other, headers, hashesFor(s), placesFor(s))) {
+		if !sameStoreAnswers(askOneStore(s), askStore(emptiedStore(s), headers, hashesFor(s), placesFor(s))) {
 			t.Errorf("the store at %d is answered otherwise with what is empty, not nil", i)
 		}
 	}
